@@ -1,0 +1,1 @@
+"""Solid things drawn exactly, in whole numbers alone."""

@@ -1,12 +1,8 @@
 """The calls on a picture: each answers a list of its own and keeps nothing."""
 
-LONGEST_SIDE = 1024
-FARTHEST_DEPTH = 16777215
-
-
-def is_picture_size(w, h):
-    """Tell whether there are pictures of w by h pixels."""
-    return 1 <= w <= LONGEST_SIDE and 1 <= h <= LONGEST_SIDE
+from solidpicture.limits import FARTHEST_DEPTH, draw_refusal, is_picture_size
+from solidpicture.placing import face_triangles, moved_corners
+from solidpicture.triangles import Canvas, draw_triangle
 
 
 def clear(w, h, color, pix, depth):
@@ -19,3 +15,20 @@ def clear(w, h, color, pix, depth):
         return [-1]
     pixels = w * h
     return [0] + [color] * pixels + [FARTHEST_DEPTH] * pixels
+
+
+def draw(w, h, n, faces, mode, pix, depth, m, corners, index, pattern, window):
+    """Answer 0, then the pixels and the depths of the picture with all faces drawn on it, in order.
+
+    [-1] if a size, a count or the mode is wrong; else [-2] if a number of the lists is.
+    """
+    refusal = draw_refusal(w, h, n, faces, mode, depth, m, corners, index, window)
+    if refusal < 0:
+        return [refusal]
+    canvas = Canvas(w, h, mode, pix, depth, pattern, window)
+    moved = moved_corners(m, corners)
+    for start in range(0, 3 * faces, 3):
+        face = [moved[k] for k in index[start:start + 3]]
+        for triangle in face_triangles(w, h, face):
+            draw_triangle(canvas, triangle)
+    return [0] + canvas.pix + canvas.depth

@@ -1,6 +1,7 @@
 """The rules for the package's files that can be seen without judgement (signs, sizes, imports, words)."""
 
 import ast
+import builtins
 import pathlib
 import re
 import unittest
@@ -14,6 +15,11 @@ STATEMENTS_NOT_USED = (
     ast.With, ast.Match, ast.Delete, ast.Global, ast.Nonlocal, ast.Assert, ast.Yield, ast.YieldFrom,
     ast.AsyncFunctionDef, ast.AsyncFor, ast.AsyncWith, ast.Await, ast.SetComp, ast.DictComp,
     ast.GeneratorExp, ast.NamedExpr, ast.Starred, ast.Div, ast.Import,
+)
+# Of Python's own names, those that are of use here.
+NAMES_USED = (
+    "len", "range", "enumerate", "zip", "min", "max", "sum", "abs", "sorted", "reversed", "int", "str", "bool", "list",
+    "tuple", "dict", "set", "isinstance", "any", "all", "divmod",
 )
 
 
@@ -59,6 +65,35 @@ class Language(unittest.TestCase):
             self.assertIsNone(WORDS_NOT_USED.search(path.read_text(encoding="ascii")), path)
             for node in ast.walk(tree):
                 self.assertNotIsInstance(node, STATEMENTS_NOT_USED, path)
+
+    def test_python_s_own_names(self):
+        for path, tree in self.each_tree():
+            for node in ast.walk(tree):
+                if isinstance(node, ast.Name) and hasattr(builtins, node.id):
+                    self.assertIsInstance(node.ctx, ast.Load, (path, node.id))
+                    self.assertIn(node.id, NAMES_USED, path)
+                if isinstance(node, ast.arg):
+                    self.assertFalse(hasattr(builtins, node.arg), (path, node.arg))
+
+    def test_no_two_files_draw_from_one_another(self):
+        drawn = {}
+        for path, tree in self.each_tree():
+            name = ".".join(("solidpicture",) + path.relative_to(PACKAGE).with_suffix("").parts)
+            drawn[name] = [node.module for node in ast.walk(tree) if isinstance(node, ast.ImportFrom)]
+        for name in drawn:
+            reached = list(drawn[name])
+            for other in reached:
+                reached += [further for further in drawn.get(other, []) if further not in reached]
+            self.assertNotIn(name, reached)
+
+    def test_one_target_in_an_assignment_and_only_methods_in_a_class(self):
+        for path, tree in self.each_tree():
+            for node in ast.walk(tree):
+                if isinstance(node, ast.Assign):
+                    self.assertEqual(len(node.targets), 1, (path, node.lineno))
+                if isinstance(node, ast.ClassDef):
+                    for part in node.body:
+                        self.assertIsInstance(part, ast.FunctionDef, (path, part.lineno))
 
 
 if __name__ == "__main__":

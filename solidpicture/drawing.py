@@ -1,7 +1,7 @@
 """The calls on a picture: each answers a list of its own and keeps nothing."""
 
-from solidpicture.limits import FARTHEST_DEPTH, draw_refusal, is_picture_size
-from solidpicture.placing import face_triangles, moved_corners
+from solidpicture.limits import FARTHEST_DEPTH, draw_refusal, faces_refusal, is_picture_size
+from solidpicture.placing import face_triangles, has_area, moved_faces
 from solidpicture.triangles import Canvas, draw_triangle
 
 
@@ -26,9 +26,19 @@ def draw(w, h, n, faces, mode, pix, depth, m, corners, index, pattern, window):
     if refusal < 0:
         return [refusal]
     canvas = Canvas(w, h, mode, pix, depth, pattern, window)
-    moved = moved_corners(m, corners)
-    for start in range(0, 3 * faces, 3):
-        face = [moved[k] for k in index[start:start + 3]]
+    for face in moved_faces(m, corners, faces, index):
         for triangle in face_triangles(w, h, face):
             draw_triangle(canvas, triangle)
     return [0] + canvas.pix + canvas.depth
+
+
+def faces_of(w, h, n, faces, m, corners, index):
+    """Answer how many faces have a triangle on a picture of w by h pixels that isn't flat, in a list of one number.
+
+    [-1] if a size or a count is wrong; else [-2] if a number of the lists is.
+    """
+    refusal = faces_refusal(w, h, n, faces, m, corners, index)
+    if refusal < 0:
+        return [refusal]
+    counted = [face for face in moved_faces(m, corners, faces, index) if has_area(w, h, face)]
+    return [len(counted)]

@@ -55,11 +55,24 @@ def is_solid(n, m, corners, index):
     return are_plain_numbers(m) and are_corners(corners) and max(index, default=-1) < n
 
 
+def faces_refusal(w, h, n, faces, m, corners, index):
+    """Answer -1 or -2 if the faces of what was handed in must not be looked at, else 0."""
+    # All sizes first: -1 goes before -2, and lists are only handed in full where the sizes are right.
+    if not (is_picture_size(w, h) and are_counts(n, faces)):
+        return -1
+    if not is_solid(n, m, corners, index):
+        return -2
+    return 0
+
+
 def draw_refusal(w, h, n, faces, mode, depth, m, corners, index, window):
     """Answer -1 or -2 if draw must refuse what it was handed, else 0."""
-    # All sizes first: -1 goes before -2, and lists are only handed in full where the sizes are right.
-    if not (is_picture_size(w, h) and are_counts(n, faces) and is_mode(mode)):
+    # The mode ahead of all numbers, for the same reason as the sizes.
+    if not is_mode(mode):
         return -1
-    if not (is_solid(n, m, corners, index) and are_plain_numbers(window) and max(depth) < BEYOND):
+    refusal = faces_refusal(w, h, n, faces, m, corners, index)
+    if refusal < 0:
+        return refusal
+    if not (are_plain_numbers(window) and max(depth) < BEYOND):
         return -2
     return 0

@@ -29,6 +29,13 @@ def moved_corners(m, corners):
     return [moved_corner(m, corners[start:start + CORNER_NUMBERS]) for start in starts]
 
 
+def moved_faces(m, corners, faces, index):
+    """Answer the faces in order, each as the list of its three moved corners."""
+    moved = moved_corners(m, corners)
+    named = [moved[k] for k in index]
+    return [named[start:start + 3] for start in range(0, 3 * faces, 3)]
+
+
 def is_in_front(corner):
     """Tell whether a moved corner lies on the side of the plane that is drawn."""
     return corner[3] >= CUT_W
@@ -86,3 +93,8 @@ def turn(triangle):
     second = triangle[1]
     third = triangle[2]
     return (second[0] - first[0]) * (third[1] - first[1]) - (second[1] - first[1]) * (third[0] - first[0])
+
+
+def has_area(w, h, face):
+    """Tell whether any triangle that a moved face has on a picture of w by h pixels isn't flat."""
+    return any([turn(triangle) != 0 for triangle in face_triangles(w, h, face)])

@@ -1,6 +1,6 @@
-"""A second reckoning of draw for the tests: each sentence of the document as it stands, for every pixel anew.
+"""A second reckoning of draw and faces_of for the tests: each sentence of the document as it stands.
 
-It shares nothing with the package, looks at all pixels of the picture for every triangle, and is slow.
+It shares nothing with the package, looks at all pixels of the picture for every triangle anew, and is slow.
 """
 
 from collections import namedtuple
@@ -107,8 +107,13 @@ def draw_pixel(w, i, j, A, B, C, mode, pix, depth, pattern):
     pix[j * w + i] = color_at(A, B, C, a, b, c, mode, pattern, pix[j * w + i])
 
 
+def turning(A, B, C):
+    """N."""
+    return (B.X - A.X) * (C.Y - A.Y) - (B.Y - A.Y) * (C.X - A.X)
+
+
 def draw_one(w, h, A, B, C, mode, pix, depth, pattern, window):
-    N = (B.X - A.X) * (C.Y - A.Y) - (B.Y - A.Y) * (C.X - A.X)
+    N = turning(A, B, C)
     if N == 0 or (N < 0 and mode % 4 == 1) or (N > 0 and mode % 4 == 2):
         return
     if N < 0:
@@ -131,7 +136,42 @@ def plain_draw(w, h, n, faces, mode, pix, depth, m, corners, index, pattern, win
     return [0] + pix + depth
 
 
-# What the tests of draw hand in: a scene is all of draw's arguments by name.
+def plain_refusal(w, h, n, faces, m, corners, index):
+    """-1, -2 or 0 for what faces_of is handed, number by number."""
+    if w < 1 or w > 1024 or h < 1 or h > 1024 or n < 0 or n > 4096 or faces < 0 or faces > 8192:
+        return -1
+    for number in m:
+        if not -2**24 < number < 2**24:
+            return -2
+    for k in range(n):
+        x, y, z, own_w, red, green, blue, cover, u, v = corners[10 * k:10 * k + 10]
+        for number in (x, y, z, own_w, u, v):
+            if not -2**24 < number < 2**24:
+                return -2
+        for number in (red, green, blue, cover):
+            if not 0 <= number <= 65535:
+                return -2
+    for number in index:
+        if number >= n:
+            return -2
+    return 0
+
+
+def plain_faces(w, h, n, faces, m, corners, index):
+    """What faces_of must answer."""
+    refusal = plain_refusal(w, h, n, faces, m, corners, index)
+    if refusal != 0:
+        return [refusal]
+    count = 0
+    for face in range(faces):
+        three = [move(m, Corner(*corners[10 * k:10 * k + 10])) for k in index[3 * face:3 * face + 3]]
+        turnings = [turning(A, B, C) for A, B, C in triangles(w, h, three)]
+        if turnings not in ([], [0], [0, 0]):
+            count += 1
+    return [count]
+
+
+# What the tests hand in: a solid is all of faces_of's arguments by name, a scene all of draw's.
 
 ONE = [65536, 0, 0, 0, 0, 65536, 0, 0, 0, 0, 65536, 0, 0, 0, 0, 65536]
 FAR = 2**24 - 1
@@ -150,36 +190,53 @@ def spot(X, Y, side=8, w=65536, **more):
     return corner(x, y, w=w, **more)
 
 
-def scene(corners=(), index=None, w=8, h=8, n=None, faces=None, mode=0, pix=None, depth=None, m=None, pattern=None,
-          window=None):
-    """A scene of corners (lists of ten); the first three are the one face if no index is told."""
+def solid(corners=(), index=None, w=8, h=8, n=None, faces=None, m=None):
+    """A solid of corners (lists of ten); the first three are the one face if no index is told."""
     index = [0, 1, 2] if index is None else list(index)
     return {
         "w": w,
         "h": h,
         "n": len(corners) if n is None else n,
         "faces": len(index) // 3 if faces is None else faces,
-        "mode": mode,
-        "pix": [0] * (w * h) if pix is None else pix,
-        "depth": [FAR] * (w * h) if depth is None else depth,
         "m": list(ONE) if m is None else m,
         "corners": [number for one in corners for number in one],
         "index": index,
+    }
+
+
+def scene(corners=(), index=None, w=8, h=8, n=None, faces=None, mode=0, pix=None, depth=None, m=None, pattern=None,
+          window=None):
+    """A solid on a picture."""
+    return {
+        **solid(corners, index, w, h, n, faces, m),
+        "mode": mode,
+        "pix": [0] * (w * h) if pix is None else pix,
+        "depth": [FAR] * (w * h) if depth is None else depth,
         "pattern": [WHITE] * 4096 if pattern is None else pattern,
         "window": [0, 0, w, h] if window is None else window,
     }
 
 
 def changed(one, **changes):
-    """The scene with other arguments."""
+    """The scene or solid with other arguments."""
     return {**one, **changes}
 
 
 def with_number(one, name, place, number):
-    """The scene with one number of one list exchanged."""
+    """The scene or solid with one number of one list exchanged."""
     numbers = list(one[name])
     numbers[place] = number
     return changed(one, **{name: numbers})
+
+
+class Untouchable(list):
+    """A list that tells when somebody changes it, even if only for a while."""
+
+    def refuse(self, *args, **more):
+        raise AssertionError("what was handed in was changed")
+
+    __setitem__ = __delitem__ = __iadd__ = __imul__ = refuse
+    append = extend = insert = pop = remove = clear = sort = reverse = refuse
 
 
 def shape(answer, w=8):

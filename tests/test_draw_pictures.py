@@ -6,7 +6,7 @@ import io
 import itertools
 import unittest
 
-from plain_drawing import FAR, WHITE, changed, corner, first_difference, plain_draw, scene, spot
+from plain_drawing import FAR, WHITE, Untouchable, changed, corner, first_difference, plain_draw, scene, spot
 from solidpicture.drawing import draw
 
 MODES = [mode for mode in range(64) if mode % 4 < 3]
@@ -184,16 +184,6 @@ class WholePictures(PictureCase):
         one = scene([corner(-65536, 65536), corner(200000, 65536), corner(-65536, -200000)], w=200, h=150)
         answer = draw(**one)
         self.assertTrue(answer[1:30001] == [WHITE] * 30000)
-
-
-class Untouchable(list):
-    """A list that tells when somebody changes it, even if only for a while."""
-
-    def refuse(self, *args, **more):
-        raise AssertionError("what was handed in was changed")
-
-    __setitem__ = __delitem__ = __iadd__ = __imul__ = refuse
-    append = extend = insert = pop = remove = clear = sort = reverse = refuse
 
 
 class NothingKept(PictureCase):
